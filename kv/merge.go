@@ -50,7 +50,7 @@ func there(sides []side, from, to string, most int) ([]api.Pair, api.Errno) {
 			continue
 		}
 		l = append(l, p)
-		// Nothing behind the last one is looked at: that it is spoilt must not be told.
+		// Behind the last one no side is read on: what is spoilt there is not wanted.
 		if len(l) == most {
 			break
 		}

@@ -247,18 +247,17 @@ func TestFlipAhead(t *testing.T) {
 	}
 }
 
-// P12.6: bits of the man and the wal turned behind the Open: what is read is told as it was, and so is it once a Flush has made them anew.
+// P12.6: each bit of the man and of the wal turned behind the Open: what is read is told as it was, and so is it once a Flush has made them anew.
 func TestFlipBehind(t *testing.T) {
-	files := []string{"s.man", "s.wal.000000000005"}
-	for _, name := range files {
+	for _, name := range []string{"s.man", "s.wal.000000000005"} {
 		_, _, p := madeOf(t, small()...)
 		text := p.files()[name]
 		if text == "" {
 			t.Fatal("the test's own names")
 		}
-		for off := 0; off < len(text); off += 3 {
+		for at := range 8 * len(text) {
 			d, k, p := madeOf(t, small()...)
-			fine(t, d.Flip(name, off, off%8))
+			fine(t, d.Flip(name, at/8, at%8))
 			p.reads(t, k)
 			refused(t, d, "s", api.ErrBad)
 			fine(t, k.Apply([]api.Pair{pair("new", "5")}))
